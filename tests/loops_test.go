@@ -793,9 +793,15 @@ func TestLoopResultsAreNew(t *testing.T) {
 
 func checkNew(t *testing.T, name string, call func() []int) {
 	t.Helper()
+	checkNewList(t, name, -9, call)
+}
+
+// checkNewList overwrites a result and wants another one and that of a further call to stay.
+func checkNewList[T comparable](t *testing.T, name string, with T, call func() []T) {
+	t.Helper()
 	first, second := call(), call()
 	want := slices.Clone(second)
-	spoil(first, -9)
+	spoil(first, with)
 	if third := call(); !slices.Equal(second, want) || !slices.Equal(third, want) {
 		t.Fatalf("%s is %v and then %v, wanted %v, behind a call whose result was changed", name, second, third, want)
 	}
