@@ -77,9 +77,8 @@ func slopes(v net) [][]*big.Rat {
 	return rows
 }
 
-// solvedOf wants a whole net: then no row that is still to come begins with 0.
-func solvedOf(v net) solved {
-	rows := slopes(v)
+// eliminate leaves in each row of the equations of a whole net only the factor in its own place. In such a net no row that is still to come begins with 0.
+func eliminate(rows [][]*big.Rat) {
 	for place, row := range rows {
 		for i, other := range rows {
 			if i == place || other[place].Sign() == 0 {
@@ -91,6 +90,12 @@ func solvedOf(v net) solved {
 			}
 		}
 	}
+}
+
+// solvedOf wants a whole net.
+func solvedOf(v net) solved {
+	rows := slopes(v)
+	eliminate(rows)
 	heights := zeroRats(v.n)
 	for node := range heights {
 		heights[node].Quo(rows[node][v.n], rows[node][node])
