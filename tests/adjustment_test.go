@@ -494,7 +494,7 @@ func wantCounts(t *testing.T, counts map[string]int, least map[string]int) {
 	t.Helper()
 	for name, count := range least {
 		if counts[name] < count {
-			t.Errorf("only %d nets or runs were checked: %s", counts[name], name)
+			t.Errorf("only %d were checked: %s", counts[name], name)
 		}
 	}
 }
